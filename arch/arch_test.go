@@ -6,6 +6,7 @@ import (
 
 	"hedgerow/api"
 	"hedgerow/arch"
+	"hedgerow/sample"
 )
 
 // a, b, c and d are names; each differs in another part from the first one.
@@ -107,9 +108,9 @@ func TestPutOfOneThatIsThere(t *testing.T) {
 func TestNamesThatDifferInOnePart(t *testing.T) {
 	s, m := both(t)
 	for _, p := range nameParts() {
-		for _, n := range []int{1, 2, 8, 14, 15, p.most - 1, p.most} {
+		for _, n := range []int{1, 2, 8, 14, 15, p.Most - 1, p.Most} {
 			id := a()
-			*p.in(&id) = n
+			*p.In(&id) = n
 			mustDo(t, call{put, of(id, pos, n%100)}, s, m)
 		}
 	}
@@ -482,12 +483,12 @@ func mustStandOnce(t *testing.T, s store) {
 }
 
 func TestAtMostOneOtherRowMoves(t *testing.T) {
-	seed := chance(5)
+	seed := sample.Chance(5)
 	s := arch.New()
 	for range 3000 {
 		x := anyEntity(&seed, 40)
 		ahead := s.Copy()
-		call{[...]int{put, put, write, remove}[seed.below(4)], x}.do(s)
+		call{[...]int{put, put, write, remove}[seed.Below(4)], x}.do(s)
 		mustMoveOne(t, ahead, s, x.ID)
 		mustStandOnce(t, s)
 	}
@@ -534,13 +535,13 @@ func TestShortScripts(t *testing.T) {
 }
 
 // anyEntity is one of some names and all masks; one of twelve may not be.
-func anyEntity(seed *chance, names int) api.Bundle {
-	i := seed.below(names)
-	b := of(name(i%2, i/2%3, i/6), masks()[seed.below(16)], seed.below(100))
-	switch seed.below(24) {
+func anyEntity(seed *sample.Chance, names int) api.Bundle {
+	i := seed.Below(names)
+	b := of(name(i%2, i/2%3, i/6), masks()[seed.Below(16)], seed.Below(100))
+	switch seed.Below(24) {
 	case 0:
 		l := badEntities(b.ID)
-		return l[seed.below(len(l))]
+		return l[seed.Below(len(l))]
 	case 1:
 		b.Mask--
 	}
@@ -556,13 +557,13 @@ type pair struct {
 // TestLongScripts: of several stores, of which each may be another one's copy.
 func TestLongScripts(t *testing.T) {
 	for _, names := range []int{3, 12, 60} {
-		seed := chance(names)
+		seed := sample.Chance(names)
 		pairs := []pair{{arch.New(), newModel()}, {arch.New(), newModel()}, {arch.New(), newModel()}}
 		for range 2500 {
-			p := pairs[seed.below(len(pairs))]
-			switch kind := seed.below(32); {
+			p := pairs[seed.Below(len(pairs))]
+			switch kind := seed.Below(32); {
 			case kind == 0:
-				pairs[seed.below(len(pairs))] = pair{p.s.Copy(), p.m.Copy()}
+				pairs[seed.Below(len(pairs))] = pair{p.s.Copy(), p.m.Copy()}
 			case kind < 14:
 				mustDo(t, call{put, anyEntity(&seed, names)}, p.s, p.m)
 			case kind < 24:
@@ -570,7 +571,7 @@ func TestLongScripts(t *testing.T) {
 			default:
 				mustDo(t, call{remove, anyEntity(&seed, names)}, p.s, p.m)
 			}
-			p = pairs[seed.below(len(pairs))]
+			p = pairs[seed.Below(len(pairs))]
 			mustBeAlike(t, p.s, p.m, anyEntity(&seed, names).ID)
 		}
 	}
@@ -578,12 +579,12 @@ func TestLongScripts(t *testing.T) {
 
 // TestManyEntities: in one table, taken out from the front, from the end and from between.
 func TestManyEntities(t *testing.T) {
-	seed := chance(7)
+	seed := sample.Chance(7)
 	s, m := both(t, row(pos|vel, 2000)...)
 	mustBeAlike(t, s, m, abcd()...)
 	for n := s.Len(); n > 0; n-- {
 		names := s.Tables()[0].IDs
-		id := names[[...]int{0, len(names) - 1, seed.below(len(names))}[n%3]]
+		id := names[[...]int{0, len(names) - 1, seed.Below(len(names))}[n%3]]
 		mustDo(t, call{kind: remove, b: api.Bundle{ID: id}}, s, m)
 		if n%200 == 1 {
 			mustBeAlike(t, s, m, id)
@@ -665,11 +666,11 @@ func TestWhatWasAnsweredStays(t *testing.T) {
 func TestTheSameAgain(t *testing.T) {
 	first := arch.New()
 	for n := range 20 {
-		seed := chance(3)
+		seed := sample.Chance(3)
 		s := arch.New()
 		for range 300 {
 			x := anyEntity(&seed, 30)
-			call{[...]int{put, put, write, remove}[seed.below(4)], x}.do(s)
+			call{[...]int{put, put, write, remove}[seed.Below(4)], x}.do(s)
 		}
 		if n == 0 {
 			first = s

@@ -8,6 +8,13 @@ import (
 
 	"hedgerow/api"
 	"hedgerow/arch"
+	"hedgerow/sample"
+)
+
+// What the tests of several layers say of entities.
+var (
+	name, of, with            = sample.Name, sample.Of, sample.With
+	mayBe, numbers, nameParts = sample.MayBe, sample.Numbers, sample.Parts
 )
 
 // The bits of a Mask, and all of them.
@@ -21,59 +28,8 @@ const (
 	maxGen = 1 << 20
 )
 
-// number is one of an entity's by chapter 9: the bit of its component, and from where to where it is if that is there.
-type number struct {
-	bit, least, most int
-	in               func(b *api.Bundle) *int
-}
-
-func numbers() []number {
-	return []number{
-		{pos, -far, far, func(b *api.Bundle) *int { return &b.X }},
-		{pos, -far, far, func(b *api.Bundle) *int { return &b.Y }},
-		{vel, -far, far, func(b *api.Bundle) *int { return &b.VX }},
-		{vel, -far, far, func(b *api.Bundle) *int { return &b.VY }},
-		{life, 1, 1 << 20, func(b *api.Bundle) *int { return &b.HP }},
-		{power, 0, 1 << 10, func(b *api.Bundle) *int { return &b.Power }},
-		{left, 1, 1 << 20, func(b *api.Bundle) *int { return &b.Left }},
-	}
-}
-
-// part is one of a name's by chapter 9: it is from 0 to most.
-type part struct {
-	most int
-	in   func(id *api.ID) *int
-}
-
-func nameParts() []part {
-	return []part{
-		{15, func(id *api.ID) *int { return &id.Shard }},
-		{15, func(id *api.ID) *int { return &id.Index }},
-		{maxGen - 1, func(id *api.ID) *int { return &id.Gen }},
-	}
-}
-
-// name is one.
-func name(shard, index, gen int) api.ID { return api.ID{Shard: shard, Index: index, Gen: gen} }
-
 // has tells whether a mask, of negative ones and very large ones too, has a bit.
 func has(mask, bit int) bool { return mask&bit != 0 }
-
-// mayBe is what chapter 9 says of an entity.
-func mayBe(b api.Bundle) bool {
-	for _, p := range nameParts() {
-		if n := *p.in(&b.ID); n < 0 || n > p.most {
-			return false
-		}
-	}
-	for _, x := range numbers() {
-		switch n := *x.in(&b); {
-		case has(b.Mask, x.bit) && (n < x.least || n > x.most), !has(b.Mask, x.bit) && n != 0:
-			return false
-		}
-	}
-	return b.Mask >= 0 && b.Mask <= all && has(b.Mask, pos)
-}
 
 // masks is all those of entities that may be, rising.
 func masks() []int {
@@ -84,23 +40,6 @@ func masks() []int {
 		}
 	}
 	return l
-}
-
-// of is an entity that may be: of a name, with the components of a mask, and with other numbers for each n below 100.
-func of(id api.ID, mask, n int) api.Bundle {
-	b := api.Bundle{ID: id, Mask: mask}
-	for i, x := range numbers() {
-		if has(mask, x.bit) {
-			*x.in(&b) = 1 + n*7 + i
-		}
-	}
-	return b
-}
-
-// with is an entity one number of which is another one.
-func with(b api.Bundle, in func(b *api.Bundle) *int, n int) api.Bundle {
-	*in(&b) = n
-	return b
 }
 
 // withName is an entity of another name.
@@ -122,9 +61,9 @@ func distant() []int {
 func badNames() []api.ID {
 	var l []api.ID
 	for _, p := range nameParts() {
-		for _, n := range append(distant(), -2, -1, p.most+1, p.most+2) {
+		for _, n := range append(distant(), -2, -1, p.Most+1, p.Most+2) {
 			id := name(1, 2, 3)
-			*p.in(&id) = n
+			*p.In(&id) = n
 			l = append(l, id)
 		}
 	}
@@ -136,12 +75,12 @@ func badEntities(id api.ID) []api.Bundle {
 	l := []api.Bundle{{ID: id}}
 	for _, mask := range []int{pos, pos | life, all &^ left, all} {
 		for _, x := range numbers() {
-			wrong := append(distant(), x.least-1, x.most+1)
-			if !has(mask, x.bit) {
-				wrong = append(distant(), -1, 1, x.most)
+			wrong := append(distant(), x.Least-1, x.Most+1)
+			if !has(mask, x.Bit) {
+				wrong = append(distant(), -1, 1, x.Most)
 			}
 			for _, n := range wrong {
-				l = append(l, with(of(id, mask, 1), x.in, n))
+				l = append(l, with(of(id, mask, 1), x.In, n))
 			}
 		}
 		for _, id := range badNames() {
@@ -165,9 +104,9 @@ func edges(id api.ID) []api.Bundle {
 	for _, mask := range masks() {
 		lowest, highest := of(id, mask, 0), of(id, mask, 0)
 		for _, x := range numbers() {
-			if has(mask, x.bit) {
-				l = append(l, with(of(id, mask, 0), x.in, x.least), with(of(id, mask, 0), x.in, x.most))
-				*x.in(&lowest), *x.in(&highest) = x.least, x.most
+			if has(mask, x.Bit) {
+				l = append(l, with(of(id, mask, 0), x.In, x.Least), with(of(id, mask, 0), x.In, x.Most))
+				*x.In(&lowest), *x.In(&highest) = x.Least, x.Most
 			}
 		}
 		l = append(l, lowest, highest)
@@ -429,12 +368,4 @@ func mustDo(t *testing.T, c call, s, want store) {
 	if got, n := c.do(s), c.do(want); got != n {
 		t.Errorf("%s of %+v: %d, want %d", [...]string{"Put", "Write", "Remove"}[c.kind], c.b, got, n)
 	}
-}
-
-// chance is numbers of which none seems to hang on those ahead, the same ones each time.
-type chance uint64
-
-func (c *chance) below(n int) int {
-	*c = *c*6364136223846793005 + 1442695040888963407
-	return int(*c>>33) % n
 }

@@ -7,6 +7,7 @@ import (
 	"hedgerow/api"
 	"hedgerow/arch"
 	"hedgerow/buffer"
+	"hedgerow/sample"
 )
 
 // a, b and c are names; each differs in another part from the first one.
@@ -86,10 +87,10 @@ func TestDoOfASetOfNoComponents(t *testing.T) {
 		s, m := both(t, of(a(), mask, 1), of(b(), mask, 2))
 		for with := 0; with <= all; with++ {
 			for _, x := range numbers() {
-				if with&x.bit == 0 {
+				if with&x.Bit == 0 {
 					for _, n := range []int{-far - 1, -1, 1, far, far + 1} {
 						d := api.Deed{Kind: set, B: of(a(), with, 3)}
-						*x.in(&d.B) = n
+						*x.In(&d.B) = n
 						must(t, "Do", buffer.Do(s, d), ok)
 						m.do(d)
 					}
@@ -103,14 +104,14 @@ func TestDoOfASetOfNoComponents(t *testing.T) {
 // TestDoOfASetAtTheEnds: each number may be what it may be at least, and at most, and nothing beyond.
 func TestDoOfASetAtTheEnds(t *testing.T) {
 	for _, x := range numbers() {
-		for _, n := range []int{x.least, x.most, x.least - 1, x.most + 1} {
+		for _, n := range []int{x.Least, x.Most, x.Least - 1, x.Most + 1} {
 			for _, mask := range masks() {
 				s, m := both(t, of(a(), mask, 1), of(b(), all, 2))
 				want := ok
-				if n < x.least || n > x.most {
+				if n < x.Least || n > x.Most {
 					want = errArg
 				}
-				d := api.Deed{Kind: set, B: with(of(a(), x.bit, 5), x.in, n)}
+				d := api.Deed{Kind: set, B: with(of(a(), x.Bit, 5), x.In, n)}
 				must(t, "Do", m.do(d), want)
 				must(t, "Do", buffer.Do(s, d), want)
 				mustBeAlike(t, s, m)
@@ -413,10 +414,10 @@ func TestNothingIsChangedAheadOfFlush(t *testing.T) {
 
 // TestToFlushTwice: is to flush once what waited in both.
 func TestToFlushTwice(t *testing.T) {
-	seed := chance(3)
+	seed := sample.Chance(3)
 	for range 300 {
 		var l []api.Deed
-		for range seed.below(12) {
+		for range seed.Below(12) {
 			l = append(l, anyDeed(&seed, 4))
 		}
 		begin := []api.Bundle{of(a(), pos, 1), of(name(1, 0, 0), all, 2)}
@@ -471,13 +472,13 @@ func TestShortScripts(t *testing.T) {
 
 // TestLongScripts: what waits is asked behind each step.
 func TestLongScripts(t *testing.T) {
-	for seed := chance(1); seed < 6; seed++ {
+	for seed := sample.Chance(1); seed < 6; seed++ {
 		own := seed
 		s, m := both(t)
 		x := buffer.New()
 		var waits []api.Deed
 		for range 1500 {
-			switch own.below(8) {
+			switch own.Below(8) {
 			case 0:
 				mustSay(t, "Flush", x.Flush(s), m.doAll(waits)...)
 				waits = nil
@@ -496,7 +497,7 @@ func TestLongScripts(t *testing.T) {
 
 // TestMany: thousands wait, and are done.
 func TestMany(t *testing.T) {
-	seed := chance(9)
+	seed := sample.Chance(9)
 	var l []api.Deed
 	for range 20000 {
 		l = append(l, anyDeed(&seed, 200))
@@ -564,7 +565,7 @@ func TestBuffersGoTheirOwnWays(t *testing.T) {
 
 // TestAnErrorChangesNothing: R3.
 func TestAnErrorChangesNothing(t *testing.T) {
-	seed := chance(11)
+	seed := sample.Chance(11)
 	s, m := both(t, of(a(), pos, 1), of(b(), all, 2), of(c(), pos, 3))
 	for range 3000 {
 		d := anyDeed(&seed, 6)

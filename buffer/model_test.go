@@ -1,13 +1,22 @@
 package buffer_test
 
 import (
-	"math"
 	"slices"
 	"testing"
 
 	"hedgerow/api"
 	"hedgerow/arch"
 	"hedgerow/buffer"
+	"hedgerow/sample"
+)
+
+// What the tests of several layers say of entities.
+var (
+	name, of, with       = sample.Name, sample.Of, sample.With
+	mayBe, over, less    = sample.MayBe, sample.Over, sample.Less
+	numbers, nameParts   = sample.Numbers, sample.Parts
+	oddNumbers, badNames = sample.OddNumbers, sample.BadNames
+	badNumbers           = sample.BadNumbers
 )
 
 // The bits of a Mask, and all of them.
@@ -31,140 +40,11 @@ const (
 	maxGen = 1 << 20
 )
 
-// name is one.
-func name(shard, index, gen int) api.ID { return api.ID{Shard: shard, Index: index, Gen: gen} }
-
-// number is one of an entity's by chapter 9: the bit of its component, and from where to where it is if that is there.
-type number struct {
-	bit, least, most int
-	in               func(b *api.Bundle) *int
-}
-
-func numbers() []number {
-	return []number{
-		{pos, -far, far, func(b *api.Bundle) *int { return &b.X }},
-		{pos, -far, far, func(b *api.Bundle) *int { return &b.Y }},
-		{vel, -far, far, func(b *api.Bundle) *int { return &b.VX }},
-		{vel, -far, far, func(b *api.Bundle) *int { return &b.VY }},
-		{life, 1, 1 << 20, func(b *api.Bundle) *int { return &b.HP }},
-		{power, 0, 1 << 10, func(b *api.Bundle) *int { return &b.Power }},
-		{left, 1, 1 << 20, func(b *api.Bundle) *int { return &b.Left }},
-	}
-}
-
-// part is one of a name's by chapter 9: it is from 0 to most.
-type part struct {
-	most int
-	in   func(id *api.ID) *int
-}
-
-func nameParts() []part {
-	return []part{
-		{15, func(id *api.ID) *int { return &id.Shard }},
-		{15, func(id *api.ID) *int { return &id.Index }},
-		{maxGen - 1, func(id *api.ID) *int { return &id.Gen }},
-	}
-}
-
-// mayBe is what chapter 9 says of an entity.
-func mayBe(b api.Bundle) bool {
-	for _, p := range nameParts() {
-		if n := *p.in(&b.ID); n < 0 || n > p.most {
-			return false
-		}
-	}
-	for _, x := range numbers() {
-		switch n := *x.in(&b); {
-		case b.Mask&x.bit != 0 && (n < x.least || n > x.most), b.Mask&x.bit == 0 && n != 0:
-			return false
-		}
-	}
-	return b.Mask >= 0 && b.Mask <= all && b.Mask&pos != 0
-}
-
-// over is an entity over which the components of another one are put.
-func over(b, c api.Bundle) api.Bundle {
-	for _, x := range numbers() {
-		if c.Mask&x.bit != 0 {
-			*x.in(&b) = *x.in(&c)
-		}
-	}
-	b.Mask |= c.Mask
-	return b
-}
-
-// less is an entity from which the components of a mask are taken.
-func less(b api.Bundle, mask int) api.Bundle {
-	for _, x := range numbers() {
-		if mask&x.bit != 0 {
-			*x.in(&b) = 0
-		}
-	}
-	b.Mask &= ^mask
-	return b
-}
-
-// of is an entity that may be where the mask has Pos: of a name, with the components of a mask, and with other numbers for each n below 100.
-func of(id api.ID, mask, n int) api.Bundle {
-	b := api.Bundle{ID: id, Mask: mask}
-	for i, x := range numbers() {
-		if mask&x.bit != 0 {
-			*x.in(&b) = 1 + n*7 + i
-		}
-	}
-	return b
-}
-
-// with is an entity one number of which is another one.
-func with(b api.Bundle, in func(b *api.Bundle) *int, n int) api.Bundle {
-	*in(&b) = n
-	return b
-}
-
 // masks is all those of entities that may be, rising.
 func masks() []int {
 	var l []int
 	for mask := pos; mask <= all; mask += 2 {
 		l = append(l, mask)
-	}
-	return l
-}
-
-// oddNumbers is such as are none of a kind, nor a mask; some of them are such as may be if bits of them are lost.
-func oddNumbers() []int {
-	l := []int{math.MinInt, math.MinInt + 1, math.MaxInt, math.MaxInt - 1, -33, -32, -31, -16, -4, -3, -2, -1, 32, 33, 37, 48, 63, 64, 95, 255, 256}
-	for _, bit := range []int{8, 16, 31, 32, 33, 48, 62} {
-		for n := -1; n <= 4; n++ {
-			l = append(l, 1<<bit+n, -1<<bit+n)
-		}
-	}
-	return l
-}
-
-// badNames is such as may not be.
-func badNames() []api.ID {
-	var l []api.ID
-	for _, p := range nameParts() {
-		for _, n := range []int{math.MinInt, math.MaxInt, -1 << 32, 1 << 32, -2, -1, p.most + 1, p.most + 2} {
-			var id api.ID
-			*p.in(&id) = n
-			l = append(l, id)
-		}
-	}
-	return l
-}
-
-// badNumbers is entities of a mask, each with one number that may not be.
-func badNumbers(id api.ID, mask int) []api.Bundle {
-	var l []api.Bundle
-	for _, x := range numbers() {
-		wrong := []int{math.MinInt, math.MaxInt, x.least - 1, x.most + 1, x.least - 1<<32, x.most + 1<<32}
-		if mask&x.bit == 0 {
-			wrong = []int{math.MinInt, math.MaxInt, -1, 1, 1 << 32}
-		}
-		for _, n := range wrong {
-			l = append(l, with(of(id, mask, 1), x.in, n))
-		}
 	}
 	return l
 }
@@ -311,33 +191,25 @@ func bufferOf(t *testing.T, l ...api.Deed) *buffer.Buffer {
 	return b
 }
 
-// chance is numbers of which none seems to hang on those ahead, the same ones each time.
-type chance uint64
-
-func (c *chance) below(n int) int {
-	*c = *c*6364136223846793005 + 1442695040888963407
-	return int(*c>>33) % n
-}
-
 // anyDeed is one of any kind for one of some names: now and then one that may not be.
-func anyDeed(seed *chance, names int) api.Deed {
-	i := seed.below(names)
-	d := api.Deed{Kind: 1 + seed.below(4), B: of(name(i%5, i/5%7, i/35), seed.below(all+1), seed.below(100))}
+func anyDeed(seed *sample.Chance, names int) api.Deed {
+	i := seed.Below(names)
+	d := api.Deed{Kind: 1 + seed.Below(4), B: of(name(i%5, i/5%7, i/35), seed.Below(all+1), seed.Below(100))}
 	if d.Kind == put {
-		d.B = of(d.B.ID, d.B.Mask|pos, seed.below(100))
+		d.B = of(d.B.ID, d.B.Mask|pos, seed.Below(100))
 	}
 	if d.Kind == drop {
-		d.Mask = seed.below(all + 1)
+		d.Mask = seed.Below(all + 1)
 	}
-	switch odd := oddNumbers(); seed.below(30) {
+	switch odd := oddNumbers(); seed.Below(30) {
 	case 0:
-		d.Kind = odd[seed.below(len(odd))]
+		d.Kind = odd[seed.Below(len(odd))]
 	case 1:
-		d.Mask = odd[seed.below(len(odd))]
+		d.Mask = odd[seed.Below(len(odd))]
 	case 2:
-		d.B.Mask = odd[seed.below(len(odd))]
+		d.B.Mask = odd[seed.Below(len(odd))]
 	case 3:
-		*numbers()[seed.below(7)].in(&d.B) = odd[seed.below(len(odd))]
+		*numbers()[seed.Below(7)].In(&d.B) = odd[seed.Below(len(odd))]
 	}
 	return d
 }

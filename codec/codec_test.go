@@ -80,7 +80,7 @@ func TestPutAtEachPart(t *testing.T) {
 		for mask := 0; mask <= all; mask++ {
 			for _, x := range numbers() {
 				b := of(mask, middle)
-				*x.in(&b) = n
+				*x.In(&b) = n
 				mustPut(t, entities(), b)
 				mustPut(t, commands(), api.Cmd{Kind: 1, B: b})
 				mustPut(t, commands(), api.Cmd{Kind: 3, ID: name(1, 2, 3), B: b})

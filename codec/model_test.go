@@ -10,7 +10,14 @@ import (
 	"hedgerow/codec"
 	"hedgerow/octet"
 	"hedgerow/parts"
+	"hedgerow/sample"
 )
+
+// What the tests of several layers say of entities.
+var name, numbers = sample.Name, sample.Numbers
+
+// number is one of an entity's.
+type number = sample.Number
 
 // The bits of a Mask, and all of them.
 const (
@@ -87,28 +94,8 @@ func (x *scan) num() int {
 	return n
 }
 
-// number is one of an entity's by the chapter's words: the bit of its component, and from where to where it is if that is there.
-type number struct {
-	bit, least, most int
-	in               func(b *api.Bundle) *int
-}
-
-func numbers() []number {
-	return []number{
-		{pos, -far, far, func(b *api.Bundle) *int { return &b.X }},
-		{pos, -far, far, func(b *api.Bundle) *int { return &b.Y }},
-		{vel, -far, far, func(b *api.Bundle) *int { return &b.VX }},
-		{vel, -far, far, func(b *api.Bundle) *int { return &b.VY }},
-		{life, 1, 1 << 20, func(b *api.Bundle) *int { return &b.HP }},
-		{power, 0, 1 << 10, func(b *api.Bundle) *int { return &b.Power }},
-		{left, 1, 1 << 20, func(b *api.Bundle) *int { return &b.Left }},
-	}
-}
-
 // has tells whether a mask, of negative ones and very large ones too, has a bit.
 func has(mask, bit int) bool { return mask&bit != 0 }
-
-func name(shard, index, gen int) api.ID { return api.ID{Shard: shard, Index: index, Gen: gen} }
 
 // thing is a kind of things: its calls, the numbers of which one's bytes are, how one is read of them, and whether one may be.
 type thing[T comparable] struct {
@@ -143,8 +130,8 @@ func scanName(x *scan) api.ID {
 func componentsRow(b api.Bundle) []int {
 	l := []int{b.Mask}
 	for _, n := range numbers() {
-		if has(b.Mask, n.bit) {
-			l = append(l, *n.in(&b))
+		if has(b.Mask, n.Bit) {
+			l = append(l, *n.In(&b))
 		}
 	}
 	return l
@@ -153,8 +140,8 @@ func componentsRow(b api.Bundle) []int {
 func scanComponents(x *scan) api.Bundle {
 	b := api.Bundle{Mask: x.num()}
 	for _, n := range numbers() {
-		if has(b.Mask, n.bit) {
-			*n.in(&b) = x.num()
+		if has(b.Mask, n.Bit) {
+			*n.In(&b) = x.num()
 		}
 	}
 	return b
@@ -288,27 +275,27 @@ func whole() api.Bundle {
 func of(mask int, pick func(x number) int) api.Bundle {
 	b := api.Bundle{Mask: mask}
 	for _, x := range numbers() {
-		if has(mask, x.bit) {
-			*x.in(&b) = pick(x)
+		if has(mask, x.Bit) {
+			*x.In(&b) = pick(x)
 		}
 	}
 	return b
 }
 
-func least(x number) int { return x.least }
+func least(x number) int { return x.Least }
 
-func most(x number) int { return x.most }
+func most(x number) int { return x.Most }
 
 // middle is from the least to the greatest, and another one for each component.
-func middle(x number) int { return min(x.most, 2+x.bit*7) }
+func middle(x number) int { return min(x.Most, 2+x.Bit*7) }
 
 // components is those of a mask, with their numbers at their least, at their greatest and between.
 func components(mask int) []api.Bundle {
 	l := []api.Bundle{of(mask, least), of(mask, most), of(mask, middle)}
 	for i, x := range numbers() { // and each one alone at its greatest, so that none is taken for another one
-		if has(mask, x.bit) {
+		if has(mask, x.Bit) {
 			b := of(mask, least)
-			*x.in(&b) = min(x.most, 1000+i)
+			*x.In(&b) = min(x.Most, 1000+i)
 			l = append(l, b)
 		}
 	}
@@ -398,12 +385,12 @@ func badComponents(mask int) []api.Bundle {
 	var l []api.Bundle
 	for _, x := range numbers() {
 		ns := []int{-1, 1, math.MinInt, math.MaxInt}
-		if has(mask, x.bit) {
-			ns = []int{x.least - 1, x.most + 1, math.MinInt, math.MaxInt, 1<<32 + x.least}
+		if has(mask, x.Bit) {
+			ns = []int{x.Least - 1, x.Most + 1, math.MinInt, math.MaxInt, 1<<32 + x.Least}
 		}
 		for _, n := range ns {
 			b := of(mask, middle)
-			*x.in(&b) = n
+			*x.In(&b) = n
 			l = append(l, b)
 		}
 	}
@@ -492,7 +479,7 @@ func anyOf[T any](next func(int) int, l []T) T { return l[next(len(l))] }
 
 // anyComponents is such as may be, of a mask.
 func anyComponents(next func(int) int, mask int) api.Bundle {
-	return of(mask, func(x number) int { return anyOf(next, []int{x.least, x.most, x.least + next(x.most-x.least+1)}) })
+	return of(mask, func(x number) int { return anyOf(next, []int{x.Least, x.Most, x.Least + next(x.Most-x.Least+1)}) })
 }
 
 func anyName(next func(int) int) api.ID { return name(next(16), next(16), next(maxGen)>>next(20)) }

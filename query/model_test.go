@@ -9,7 +9,11 @@ import (
 	"hedgerow/api"
 	"hedgerow/arch"
 	"hedgerow/query"
+	"hedgerow/sample"
 )
+
+// name is one.
+var name = sample.Name
 
 // The bits of a Mask, and all of them.
 const (
@@ -24,9 +28,6 @@ const (
 
 // everything is the query that asks for all.
 var everything = api.Query{}
-
-// name is one.
-func name(shard, index, gen int) api.ID { return api.ID{Shard: shard, Index: index, Gen: gen} }
 
 // standing is an entity of a name and a mask, at a point.
 func standing(id api.ID, mask, x, y int) api.Bundle {
@@ -296,22 +297,14 @@ func edges() []int {
 	return []int{math.MinInt, math.MinInt + 1, -far - 1, -far, 1 - far, -1, 0, 1, far - 1, far, far + 1, math.MaxInt - 1, math.MaxInt}
 }
 
-// chance is numbers of which none seems to hang on those ahead, the same ones each time.
-type chance uint64
-
-func (c *chance) below(n int) int {
-	*c = *c*6364136223846793005 + 1442695040888963407
-	return int(*c>>33) % n
-}
-
 // anyEntity is one of some names, of all masks, at a point that lies at most span apart from 0, 0.
-func anyEntity(seed *chance, names, span int) api.Bundle {
-	i := seed.below(names)
-	return standing(name(i%5, i/5%7, i/35), masks()[seed.below(16)], seed.below(2*span+1)-span, seed.below(2*span+1)-span)
+func anyEntity(seed *sample.Chance, names, span int) api.Bundle {
+	i := seed.Below(names)
+	return standing(name(i%5, i/5%7, i/35), masks()[seed.Below(16)], seed.Below(2*span+1)-span, seed.Below(2*span+1)-span)
 }
 
 // many is some entities, of names that differ.
-func many(seed *chance, n, span int) []api.Bundle {
+func many(seed *sample.Chance, n, span int) []api.Bundle {
 	var l []api.Bundle
 	there := map[api.ID]int{}
 	for len(l) < n {
@@ -324,10 +317,10 @@ func many(seed *chance, n, span int) []api.Bundle {
 }
 
 // shuffled is a list in another order.
-func shuffled(seed *chance, l []api.Bundle) []api.Bundle {
+func shuffled(seed *sample.Chance, l []api.Bundle) []api.Bundle {
 	l = slices.Clone(l)
 	for i := len(l) - 1; i > 0; i-- {
-		j := seed.below(i + 1)
+		j := seed.Below(i + 1)
 		l[i], l[j] = l[j], l[i]
 	}
 	return l

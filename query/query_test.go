@@ -9,6 +9,7 @@ import (
 	"hedgerow/api"
 	"hedgerow/arch"
 	"hedgerow/query"
+	"hedgerow/sample"
 )
 
 // a, b, c and d are names that rise; each differs in another part from the first one.
@@ -406,11 +407,11 @@ func TestNearByName(t *testing.T) {
 
 // TestNearManyThatLieEquallyFar: in one table, and through several.
 func TestNearManyThatLieEquallyFar(t *testing.T) {
-	seed := chance(11)
+	seed := sample.Chance(11)
 	for _, kinds := range [][]int{{pos}, {pos, all, pos | vel}} {
 		var l []api.Bundle
 		for i, x := range many(&seed, 300, 1) {
-			side := [][2]int{{5, 0}, {-5, 3}, {2, 5}, {-5, -5}, {3, 0}}[seed.below(5)]
+			side := [][2]int{{5, 0}, {-5, 3}, {2, 5}, {-5, -5}, {3, 0}}[seed.Below(5)]
 			l = append(l, standing(x.ID, kinds[i%len(kinds)], side[0], side[1]))
 		}
 		s := storeOf(t, l...)
@@ -424,7 +425,7 @@ func TestNearManyThatLieEquallyFar(t *testing.T) {
 
 // TestEachHasAComponentOrHasItNot: and none has it and has it not.
 func TestEachHasAComponentOrHasItNot(t *testing.T) {
-	seed := chance(3)
+	seed := sample.Chance(3)
 	s := storeOf(t, many(&seed, 60, 5)...)
 	for _, q := range queries() {
 		for _, component := range []int{pos, vel, life, power, left} {
@@ -472,12 +473,12 @@ func mustBeAmong(t *testing.T, s *arch.Store, narrow, wide api.Query) {
 
 // TestTheOrderOfPutsIsNotTold: nor is what moved rows between.
 func TestTheOrderOfPutsIsNotTold(t *testing.T) {
-	seed := chance(5)
+	seed := sample.Chance(5)
 	l := many(&seed, 50, 3)
 	for range 30 {
 		s := storeOf(t, shuffled(&seed, l)...)
 		for range 20 { // it goes, and comes again, as what it was
-			x := l[seed.below(len(l))]
+			x := l[seed.Below(len(l))]
 			s.Remove(x.ID)
 			s.Put(x)
 			s.Write(standing(x.ID, all, far, far))
@@ -496,11 +497,11 @@ func TestTheOrderOfPutsIsNotTold(t *testing.T) {
 // TestLongScripts: what a store has is asked behind each change.
 func TestLongScripts(t *testing.T) {
 	for _, names := range []int{4, 40, 200} {
-		seed := chance(names)
+		seed := sample.Chance(names)
 		s, there := arch.New(), map[api.ID]api.Bundle{}
 		for range 1500 {
 			x := anyEntity(&seed, names, 6)
-			switch seed.below(4) {
+			switch seed.Below(4) {
 			case 0:
 				s.Remove(x.ID)
 				delete(there, x.ID)
@@ -514,16 +515,16 @@ func TestLongScripts(t *testing.T) {
 			for _, x := range there {
 				l = append(l, x)
 			}
-			q := api.Query{All: masks()[seed.below(16)] & masks()[seed.below(16)], None: 2 * seed.below(16) & seed.below(32)}
+			q := api.Query{All: masks()[seed.Below(16)] & masks()[seed.Below(16)], None: 2 * seed.Below(16) & seed.Below(32)}
 			mustAnswer(t, s, l, q)
-			mustBeWithin(t, s, l, q, api.Rect{X0: seed.below(9) - 7, Y0: seed.below(9) - 7, X1: seed.below(9), Y1: seed.below(9)})
-			mustBeNear(t, s, l, q, seed.below(15)-7, seed.below(15)-7, seed.below(10)-1)
+			mustBeWithin(t, s, l, q, api.Rect{X0: seed.Below(9) - 7, Y0: seed.Below(9) - 7, X1: seed.Below(9), Y1: seed.Below(9)})
+			mustBeNear(t, s, l, q, seed.Below(15)-7, seed.Below(15)-7, seed.Below(10)-1)
 		}
 	}
 }
 
 func TestManyEntities(t *testing.T) {
-	seed := chance(9)
+	seed := sample.Chance(9)
 	l := many(&seed, 1500, 300)
 	s := storeOf(t, l...)
 	for _, q := range []api.Query{everything, {All: life, None: power}, {None: all &^ pos}} {
