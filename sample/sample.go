@@ -1,4 +1,4 @@
-// Package sample has entities for the tests of the layers, and what chapters 2, 3 and 9 say of them, worked out by their words. It calls no layer, so that each can be held against it; no layer calls it.
+// Package sample has entities for the tests of the layers, and what chapters 2, 3, 9 and 14 say of them, worked out by their words. It calls no layer, so that each can be held against it; no layer calls it.
 package sample
 
 import (
@@ -155,6 +155,30 @@ func OddNumbers() []int {
 	return l
 }
 
+// AllNumbers tells the odd ones and those about 0.
+func AllNumbers() []int {
+	return append(OddNumbers(), 0, 1, 2, 3, 4, 5, 8, 9, 10, 11, 13, 20, 30, 31)
+}
+
+// Names tells one that may be, those that differ from it in one part, and such as may not be.
+func Names() []api.ID {
+	return []api.ID{
+		Name(0, 0, 0), Name(0, 0, 1), Name(0, 1, 0), Name(1, 0, 0), Name(15, 15, 1<<20-1),
+		Name(-1, 0, 0), Name(0, 0, 1<<32), Name(math.MinInt, 3, math.MaxInt),
+	}
+}
+
+// Worlds tells such as may be: with no speed, and the greatest one, and at both ends of their size.
+func Worlds() []api.Config {
+	return []api.Config{
+		{Cols: 1, Rows: 1, Side: 256, Ids: 1, Queue: 1},
+		{Cols: 2, Rows: 1, Side: 256, Radius: 9, Speed: 10, Ids: 1, Queue: 1},
+		{Cols: 1, Rows: 3, Side: 300, Radius: 300, Speed: 300, Ids: 16, Queue: 64},
+		{Cols: 4, Rows: 2, Side: 1000, Radius: 1, Speed: 1, Ids: 1, Queue: 1},
+		{Cols: 4, Rows: 4, Side: 1 << 20, Radius: 1 << 20, Speed: 1 << 20, Ids: 16, Queue: 64},
+	}
+}
+
 // BadNames tells such as may not be.
 func BadNames() []api.ID {
 	var l []api.ID
@@ -190,4 +214,38 @@ type Chance uint64
 func (c *Chance) Below(n int) int {
 	*c = *c*6364136223846793005 + 1442695040888963407
 	return int(*c>>33) % n
+}
+
+// Any is an entity of one of some names that may be, within a square.
+func Any(seed *Chance, names, side int) api.Bundle {
+	i := seed.Below(names)
+	b := Of(Name(i%5, i/5%7, i/35), api.Pos|seed.Below(api.All+1), seed.Below(100))
+	b.X, b.Y = seed.Below(side), seed.Below(side)
+	return b
+}
+
+// Anything is now and then an entity that may not be.
+func Anything(seed *Chance, names, side int) api.Bundle {
+	b := Any(seed, names, side)
+	odd := OddNumbers()
+	for range seed.Below(3) {
+		switch n := odd[seed.Below(len(odd))]; seed.Below(4) {
+		case 0:
+			b.Mask = n
+		case 1:
+			*Parts()[seed.Below(3)].In(&b.ID) = n
+		default:
+			*Numbers()[seed.Below(7)].In(&b) = n
+		}
+	}
+	return b
+}
+
+// Some tells as many at most, made by one of both.
+func Some(seed *Chance, most int, one func(seed *Chance, names, side int) api.Bundle) []api.Bundle {
+	var l []api.Bundle
+	for range seed.Below(most + 1) {
+		l = append(l, one(seed, 12, 40))
+	}
+	return l
 }
