@@ -7,6 +7,7 @@ import (
 
 	"hedgerow/api"
 	"hedgerow/ids"
+	"hedgerow/sample"
 )
 
 const (
@@ -28,158 +29,13 @@ type pool interface {
 	List() []api.ID
 }
 
-// The states of an index.
-const (
-	free = iota
-	somebodys
-	worn
+// model is a pool by the chapter's words, slot an index of it.
+type (
+	model = sample.Pool
+	slot  = sample.Slot
 )
 
-// slot is an index by the chapter's words.
-type slot struct{ gen, bound, state int }
-
-// model is a pool by the chapter's words.
-type model struct {
-	shards, ids int
-	slots       map[[2]int]*slot
-	rows        map[int][]int
-}
-
-func newModel(shards, ids int) *model {
-	m := &model{shards, ids, map[[2]int]*slot{}, map[int][]int{}}
-	for k := 0; k < shards; k++ {
-		for i := 0; i < ids; i++ {
-			m.slots[[2]int{k, i}] = &slot{}
-			m.rows[k] = append(m.rows[k], i)
-		}
-	}
-	return m
-}
-
-// leave has an index leave its row.
-func (m *model) leave(k, i int) {
-	var row []int
-	for _, j := range m.rows[k] {
-		if j != i {
-			row = append(row, j)
-		}
-	}
-	m.rows[k] = row
-}
-
-func (m *model) Head(k int) (int, bool, api.Errno) {
-	if k < 0 || k >= m.shards {
-		return 0, false, api.ErrArg
-	}
-	if len(m.rows[k]) == 0 {
-		return 0, false, api.ErrFull
-	}
-	i := m.rows[k][0]
-	s := m.slots[[2]int{k, i}]
-	return i, s.gen < s.bound, api.OK
-}
-
-func (m *model) Gen(k, i int) int {
-	if s := m.slots[[2]int{k, i}]; s != nil {
-		return s.gen
-	}
-	return 0
-}
-
-func (m *model) Reserve(k, i int) api.Errno {
-	s := m.slots[[2]int{k, i}]
-	if s == nil {
-		return api.ErrArg
-	}
-	if s.bound == maxGen {
-		return api.ErrRange
-	}
-	s.bound += aside
-	if s.bound > maxGen {
-		s.bound = maxGen
-	}
-	return api.OK
-}
-
-func (m *model) Issue(k int) (api.ID, api.Errno) {
-	i, ok, e := m.Head(k)
-	if e != api.OK {
-		return api.ID{}, e
-	}
-	if !ok {
-		return api.ID{}, api.ErrState
-	}
-	s := m.slots[[2]int{k, i}]
-	s.state = somebodys
-	m.leave(k, i)
-	return api.ID{Shard: k, Index: i, Gen: s.gen}, api.OK
-}
-
-func (m *model) Take(id api.ID) api.Errno {
-	s := m.slots[[2]int{id.Shard, id.Index}]
-	if s == nil || id.Gen < 0 {
-		return api.ErrArg
-	}
-	if s.state != free {
-		return api.ErrState
-	}
-	if id.Gen < s.gen || id.Gen >= s.bound {
-		return api.ErrStale
-	}
-	s.gen, s.state = id.Gen, somebodys
-	m.leave(id.Shard, id.Index)
-	return api.OK
-}
-
-func (m *model) Free(id api.ID) api.Errno {
-	s := m.slots[[2]int{id.Shard, id.Index}]
-	if s == nil || id.Gen < 0 {
-		return api.ErrArg
-	}
-	if s.state != somebodys || s.gen != id.Gen {
-		return api.ErrStale
-	}
-	s.gen++
-	if s.gen == maxGen {
-		s.state = worn
-		return api.OK
-	}
-	s.state = free
-	m.rows[id.Shard] = append(m.rows[id.Shard], id.Index)
-	return api.OK
-}
-
-func (m *model) Alive(id api.ID) bool {
-	s := m.slots[[2]int{id.Shard, id.Index}]
-	return s != nil && s.state == somebodys && s.gen == id.Gen
-}
-
-func (m *model) Lapse() int {
-	n := 0
-	for at, s := range m.slots {
-		if s.state == free && s.gen < s.bound {
-			n++
-			s.gen = s.bound
-			if s.gen == maxGen {
-				s.state = worn
-				m.leave(at[0], at[1])
-			}
-		}
-	}
-	return n
-}
-
-func (m *model) List() []api.ID {
-	var l []api.ID
-	for k := 0; k < m.shards; k++ {
-		for i := 0; i < m.ids; i++ {
-			if s := m.slots[[2]int{k, i}]; s.state == somebodys {
-				l = append(l, api.ID{Shard: k, Index: i, Gen: s.gen})
-			}
-		}
-	}
-	return l
-}
+var newModel = sample.NewPool
 
 // name is one.
 func name(k, i, gen int) api.ID { return api.ID{Shard: k, Index: i, Gen: gen} }
@@ -339,7 +195,7 @@ func far() []int {
 func around(s *slot) []int {
 	l := []int{-1, 0, 1, maxGen - 2, maxGen - 1, maxGen, maxGen + 1}
 	for d := -1; d <= 1; d++ {
-		l = append(l, s.gen+d, s.bound+d)
+		l = append(l, s.Gen+d, s.Bound+d)
 	}
 	slices.Sort(l)
 	return slices.Compact(l)
@@ -348,14 +204,14 @@ func around(s *slot) []int {
 // mustBeAlike says so if a pool tells something else than the model; nothing changes.
 func mustBeAlike(t *testing.T, p *ids.Pool, m *model) {
 	t.Helper()
-	for k := -1; k <= m.shards; k++ {
+	for k := -1; k <= m.Shards; k++ {
 		i, ok, e := p.Head(k)
 		if wi, wok, we := m.Head(k); i != wi || ok != wok || e != we {
 			t.Errorf("Head(%d): %d, %v, %d; want %d, %v, %d", k, i, ok, e, wi, wok, we)
 		}
-		for i := -1; i <= m.ids; i++ {
+		for i := -1; i <= m.Ids; i++ {
 			mustGen(t, p, k, i, m.Gen(k, i))
-			s := m.slots[[2]int{k, i}]
+			s := m.Slots[[2]int{k, i}]
 			if s == nil {
 				s = &slot{}
 			}
@@ -372,7 +228,7 @@ func mustBeAlike(t *testing.T, p *ids.Pool, m *model) {
 // mustEndAlike says so if a pool's rows are not the model's; they are empty behind it.
 func mustEndAlike(t *testing.T, p *ids.Pool, m *model) {
 	t.Helper()
-	for k := 0; k < m.shards; k++ {
+	for k := 0; k < m.Shards; k++ {
 		if l, want := drain(p, k), drain(m, k); !slices.Equal(l, want) {
 			t.Errorf("the names of %d that follow: %v, want %v", k, l, want)
 		}
@@ -729,7 +585,7 @@ func TestTakeOfAnIndexThatIsNotFree(t *testing.T) {
 
 func TestTakeRefusesWhatIsNoName(t *testing.T) {
 	p, m := ready(t, 2, 3), newModel(2, 3)
-	for at := range m.slots {
+	for at := range m.Slots {
 		m.Reserve(at[0], at[1])
 	}
 	for _, n := range append(far(), -1) {
@@ -791,7 +647,7 @@ func TestFreeOfAName(t *testing.T) {
 
 func TestFreeRefusesWhatIsNoName(t *testing.T) {
 	p, m := ready(t, 2, 3), newModel(2, 3)
-	for at := range m.slots {
+	for at := range m.Slots {
 		m.Reserve(at[0], at[1])
 	}
 	for _, q := range []pool{p, m} {
@@ -1200,21 +1056,21 @@ func TestShortScripts(t *testing.T) {
 
 // anyCall is one of a long script: mostly of what is there, and of generations about those that count.
 func anyCall(next func(int) int, m *model) call {
-	k, i := next(m.shards), next(m.ids)
+	k, i := next(m.Shards), next(m.Ids)
 	if next(30) == 0 {
-		k = []int{-1, m.shards, math.MinInt, math.MaxInt, 1 << 60}[next(5)]
+		k = []int{-1, m.Shards, math.MinInt, math.MaxInt, 1 << 60}[next(5)]
 	}
 	if next(30) == 0 {
-		i = []int{-1, m.ids, math.MinInt, math.MaxInt, 1 << 60}[next(5)]
+		i = []int{-1, m.Ids, math.MinInt, math.MaxInt, 1 << 60}[next(5)]
 	}
-	s := m.slots[[2]int{k, i}]
+	s := m.Slots[[2]int{k, i}]
 	if s == nil {
 		s = &slot{}
 	}
 	near := around(s)
 	id := name(k, i, near[next(len(near))])
 	if next(2) == 0 {
-		id.Gen = s.gen
+		id.Gen = s.Gen
 	}
 	return call{[]rune("rriiiitttfffffffl")[next(17)], id}
 }

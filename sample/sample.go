@@ -1,4 +1,4 @@
-// Package sample has entities for the tests of the layers, and what chapters 2, 3, 9 and 14 say of them, worked out by their words. It calls no layer, so that each can be held against it; no layer calls it.
+// Package sample has entities for the tests of the layers, and what chapters 2, 3, 4, 8, 9 and 14 say of them, worked out by their words. It calls no layer, so that each can be held against it; no layer calls it.
 package sample
 
 import (

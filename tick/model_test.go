@@ -16,6 +16,8 @@ var (
 	ahead, worlds, numbers    = sample.Ahead, sample.Worlds, sample.Numbers
 	oddNumbers, allNumbers    = sample.OddNumbers, sample.AllNumbers
 	anyEntity, anything, some = sample.Any, sample.Anything, sample.Some
+	begin, end, give, take    = sample.Begin, sample.End, sample.Give, sample.Take
+	count, apart, zoneOf      = sample.Zones, sample.Outside, sample.ZoneOf
 )
 
 // The bits of a Mask, and all of them.
@@ -24,10 +26,8 @@ const (
 	all                         = 31
 )
 
-// The kinds of commands.
-const (
-	spawn, despawn, set, drop = 1, 2, 3, 4
-)
+// spawn is the kind of the commands that let one begin.
+const spawn = 1
 
 // result, entities and dead are short for what a tick is asked, and leaves.
 type result = tick.Result
@@ -65,36 +65,13 @@ func ageing(id api.ID, n int) api.Bundle {
 	return api.Bundle{ID: id, Mask: pos | left, Left: n}
 }
 
-// begin, end, give and take are the commands.
-func begin(b api.Bundle) api.Cmd            { return api.Cmd{Kind: spawn, B: b} }
-func end(id api.ID) api.Cmd                 { return api.Cmd{Kind: despawn, ID: id} }
-func give(id api.ID, b api.Bundle) api.Cmd  { return api.Cmd{Kind: set, ID: id, B: b} }
-func take(id api.ID, mask int) api.Cmd      { return api.Cmd{Kind: drop, ID: id, Mask: mask} }
+// giveLife, giveLeft and giveVel set one component.
 func giveLife(id api.ID, hp int) api.Cmd    { return give(id, api.Bundle{Mask: life, HP: hp}) }
 func giveLeft(id api.ID, n int) api.Cmd     { return give(id, api.Bundle{Mask: left, Left: n}) }
 func giveVel(id api.ID, vx, vy int) api.Cmd { return give(id, api.Bundle{Mask: vel, VX: vx, VY: vy}) }
 
 // mapOf is a world's.
 func mapOf(c api.Config) *zones.Map { return &zones.Map{Config: c} }
-
-// count is how many zones a world has.
-func count(c api.Config) int { return c.Cols * c.Rows }
-
-// apart tells how far a point lies from a zone.
-func apart(c api.Config, zone int, b api.Bundle) int {
-	x, y := b.X-zone%c.Cols*c.Side, b.Y-zone/c.Cols*c.Side
-	return max(-x, x-c.Side+1, -y, y-c.Side+1, 0)
-}
-
-// zoneOf is where one stands; -1, if it is not in the world.
-func zoneOf(c api.Config, b api.Bundle) int {
-	for zone := range count(c) {
-		if b = with(b, numbers()[0].In, sample.Fixed(b.X)); apart(c, zone, with(b, numbers()[1].In, sample.Fixed(b.Y))) == 0 {
-			return zone
-		}
-	}
-	return -1
-}
 
 // beside tells whether two zones are the same, or lie beside one another.
 func beside(c api.Config, one, other int) bool {
@@ -221,21 +198,12 @@ func mustLeave(t *testing.T, own []api.Bundle, want result, cmds ...api.Cmd) {
 // anyCommand is one for one of some names.
 func anyCommand(seed *sample.Chance, c api.Config, of func(seed *sample.Chance, names, side int) api.Bundle, names int) api.Cmd {
 	b := of(seed, names, c.Side)
-	switch kind := 1 + seed.Below(4); kind {
-	case spawn:
+	kind := 1 + seed.Below(4)
+	if kind == spawn {
 		b.X += c.Side * seed.Below(c.Cols)
 		b.Y += c.Side * seed.Below(c.Rows)
-		return begin(b)
-	case despawn:
-		return end(b.ID)
-	case set:
-		id := b.ID
-		b = sample.Less(b, pos)
-		b.ID = api.ID{}
-		return give(id, b)
-	default:
-		return take(b.ID, b.Mask&^pos)
 	}
+	return sample.Command(kind, b)
 }
 
 // commands is as many at most.
